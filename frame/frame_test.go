@@ -393,12 +393,13 @@ func copied[T any](at *T) *T {
 func TestOfNoFrameNothingIsTold(t *testing.T) {
 	fresh, asked, none := of(t, 5), of(t, 5), of(t, 0)
 	asked.Nodes()
+	refused, _ := frame.New(-1)
 	for name, f := range map[string]*frame.Frame{
-		"nil": nil, "one that was not made": {}, "new": new(frame.Frame),
+		"nil": nil, "one that was not made": {}, "new": new(frame.Frame), "refused": refused,
 		"a copy": copied(fresh), "a copy with nodes": copied(asked), "a copy without leaves": copied(none),
 	} {
-		if f.Leaves() != 0 || f.Root() != 0 || len(f.Nodes()) != 0 {
-			t.Errorf("%s: %d leaves, the root %d, %v", name, f.Leaves(), f.Root(), f.Nodes())
+		if f.Leaves() != 0 || f.Root() != -1 || len(f.Nodes()) != 0 {
+			t.Errorf("%s: %d leaves, the root %d, %v; not 0, -1, nothing", name, f.Leaves(), f.Root(), f.Nodes())
 		}
 		for _, x := range [][2]int{{0, 0}, {0, 1}, {1, 3}, {-1, 0}, {2, 1}, {0, 9}} {
 			canon(t, f, x[0], x[1], nil, 0, api.ErrNil) // ahead of ErrArg
