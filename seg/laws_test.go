@@ -6,84 +6,23 @@ import (
 
 	"gridiron/api"
 	"gridiron/rank"
+	"gridiron/samples"
 	"gridiron/seg"
 )
 
-// turns are numbers by a rule that goes round: each call tells one from 0 on, below what it is handed.
-func turns(seed int) func(below int) int {
-	turn := uint64(seed)*2654435761 + 12345
-	return func(below int) int {
-		turn = turn*6364136223846793005 + 1442695040888963407
-		return int(turn>>33) % below
-	}
-}
-
-// mixed are n right spans with ends below unlike, their names in no order.
-func mixed(n, unlike int) []api.Span {
-	next := turns(n*31 + unlike)
-	var l []api.Span
-	for i := range n {
-		lo, hi := int64(next(unlike)), int64(next(unlike))
-		// 40503 is odd, so that no two of 2^16 names are the same.
-		l = append(l, span(uint32(i*40503%65536), min(lo, hi), max(lo, hi)))
-	}
-	return l
-}
-
-// shuffled is l in another order.
-func shuffled(l []api.Span, seed int) []api.Span {
-	next := turns(seed)
-	l = slices.Clone(l)
-	for i := range l {
-		j := i + next(len(l)-i)
-		l[i], l[j] = l[j], l[i]
-	}
-	return l
-}
-
-// lists are all lists of n spans with ends from 0, ahead of ends; the names fall.
-func lists(n, ends int) [][]api.Span {
-	if n == 0 {
-		return [][]api.Span{nil}
-	}
-	var all [][]api.Span
-	for _, l := range lists(n-1, ends) {
-		for lo := range ends {
-			for hi := lo; hi < ends; hi++ {
-				all = append(all, append(slices.Clone(l), span(uint32(10-n), int64(lo), int64(hi))))
-			}
-		}
-	}
-	return all
-}
-
 func TestAllListsOfFewSpans(t *testing.T) {
 	for n, ends := range []int{9, 9, 6, 4, 3} {
-		for _, l := range lists(n, ends) {
+		for _, l := range samples.FewSpans(n, ends) {
 			holds(t, of(t, l...), l, l)
 		}
 	}
 }
 
-// orders are all orders of l.
-func orders(l []api.Span) [][]api.Span {
-	if len(l) == 0 {
-		return [][]api.Span{nil}
-	}
-	var all [][]api.Span
-	for i, first := range l {
-		for _, rest := range orders(slices.Delete(slices.Clone(l), i, i+1)) {
-			all = append(all, append([]api.Span{first}, rest...))
-		}
-	}
-	return all
-}
-
 // P8.3 and P8.5
 
 func TestAllOrdersInWhichFewSpansAreDropped(t *testing.T) {
-	for _, l := range lists(3, 3) {
-		for _, order := range orders(l) {
+	for _, l := range samples.FewSpans(3, 3) {
+		for _, order := range samples.Orders(l) {
 			s := of(t, l...)
 			for i, x := range order {
 				dropped(t, s, x, true)
@@ -97,9 +36,9 @@ func TestAllOrdersInWhichFewSpansAreDropped(t *testing.T) {
 func TestManySpansAreDroppedInAnyOrder(t *testing.T) {
 	for _, n := range []int{1, 2, 3, 5, 17, 64, 150} {
 		for _, unlike := range []int{1, 2, 7, 50, 5000} {
-			l := mixed(n, unlike)
+			l := samples.Spans(n, unlike)
 			for seed := range 3 {
-				s, order := of(t, l...), shuffled(l, seed)
+				s, order := of(t, l...), samples.Shuffled(l, seed)
 				for i, x := range order {
 					if i%(1+n/7) == 0 {
 						holds(t, s, l, order[i:])
@@ -117,11 +56,11 @@ func TestManySpansAreDroppedInAnyOrder(t *testing.T) {
 func TestTheOrderInWhichSpansAreHandedInSaysNothing(t *testing.T) {
 	for _, n := range []int{2, 3, 9, 40, 200} {
 		for _, unlike := range []int{2, 30, 3000} {
-			l := mixed(n, unlike)
+			l := samples.Spans(n, unlike)
 			one := of(t, l...)
 			falling := slices.Clone(l)
 			slices.Reverse(falling)
-			for _, order := range [][]api.Span{shuffled(l, 1), shuffled(l, 2), falling} {
+			for _, order := range [][]api.Span{samples.Shuffled(l, 1), samples.Shuffled(l, 2), falling} {
 				same(t, one, of(t, order...), endsOf(l))
 			}
 		}
@@ -146,10 +85,10 @@ func same(t *testing.T, one, other *seg.Seg, ends []int64) {
 }
 
 func TestTheSameSpansLeftAreToldOfWhicheverWereDropped(t *testing.T) {
-	l, left := mixed(80, 60), mixed(80, 60)[:20]
+	l, left := samples.Spans(80, 60), samples.Spans(80, 60)[:20]
 	for seed := range 4 {
-		s := of(t, shuffled(l, seed)...)
-		for _, x := range shuffled(l[20:], seed+9) {
+		s := of(t, samples.Shuffled(l, seed)...)
+		for _, x := range samples.Shuffled(l[20:], seed+9) {
 			dropped(t, s, x, true)
 		}
 		holds(t, s, l, left)
@@ -161,12 +100,12 @@ func TestTheSameSpansLeftAreToldOfWhicheverWereDropped(t *testing.T) {
 func TestAtFewNodesASpanStands(t *testing.T) {
 	for _, n := range []int{0, 1, 2, 3, 7, 8, 31, 32, 33, 200} {
 		for _, unlike := range []int{1, 3, 100, 100000} {
-			l := mixed(n, unlike)
+			l := samples.Spans(n, unlike)
 			s := of(t, l...)
 			for _, x := range l {
 				before := s.Weight()
 				dropped(t, s, x, true)
-				if at := before - s.Weight(); at < 1 || at > 2*log(4*n+4) || at > 2*rank.Log(4*n+4) {
+				if at := before - s.Weight(); at < 1 || at > 2*samples.Log(4*n+4) || at > 2*rank.Log(4*n+4) {
 					t.Fatalf("%v stood at %d nodes of a tree of %d spans", x, at, n)
 				}
 			}
@@ -175,7 +114,7 @@ func TestAtFewNodesASpanStands(t *testing.T) {
 }
 
 func TestCountTouchesWhatStabDoesButForTheSpans(t *testing.T) {
-	l := mixed(100, 80)
+	l := samples.Spans(100, 80)
 	s, ends := of(t, l...), endsOf(l)
 	for i, gone := range l {
 		for _, x := range numbersAt(ends)[:i] {
@@ -190,7 +129,7 @@ func TestCountTouchesWhatStabDoesButForTheSpans(t *testing.T) {
 }
 
 func TestWhatIsTouchedHasTheCellsThatWereLookedAtAndANode(t *testing.T) {
-	l := mixed(100, 300)
+	l := samples.Spans(100, 300)
 	s, ends := of(t, l...), endsOf(l)
 	for _, x := range numbersAt(ends) {
 		_, looked := rank.First(ends, x)
@@ -210,8 +149,8 @@ func TestManySpansThatAreTheSame(t *testing.T) {
 		l = append(l, span(uint32(n-i), -5, 5))
 	}
 	s := of(t, append(l, span(0, -9, 9))...)
-	for i, x := range shuffled(l, 1) {
-		if count, touched := s.Count(0); count != n-i+1 || touched > 2*log(4*(n+1)+4)+2 {
+	for i, x := range samples.Shuffled(l, 1) {
+		if count, touched := s.Count(0); count != n-i+1 || touched > 2*samples.Log(4*(n+1)+4)+2 {
 			t.Fatalf("behind %d drops: %d, %d touched", i, count, touched)
 		}
 		dropped(t, s, x, true)
@@ -221,13 +160,13 @@ func TestManySpansThatAreTheSame(t *testing.T) {
 
 func TestManySpans(t *testing.T) {
 	const n = 50000
-	l := mixed(n, 1<<30)
+	l := samples.Spans(n, 1<<30)
 	s := of(t, l...)
-	if s.Len() != n || s.Weight() < n || s.Weight() > n*2*log(4*n+4) {
+	if s.Len() != n || s.Weight() < n || s.Weight() > n*2*samples.Log(4*n+4) {
 		t.Fatalf("Len: %d, Weight: %d", s.Len(), s.Weight())
 	}
 	some := []int64{-1, 0, 1 << 29, 1 << 30, l[0].Lo, l[1].Hi, l[2].Lo - 1, l[3].Hi + 1, least, greatest}
-	order := shuffled(l, 5)
+	order := samples.Shuffled(l, 5)
 	for i, x := range order {
 		if i%7000 == 0 {
 			for _, number := range some {
@@ -244,7 +183,7 @@ func TestManySpans(t *testing.T) {
 // R3 and R4
 
 func TestNoListThatIsGivenIsChangedNorKept(t *testing.T) {
-	whole := mixed(60, 50)
+	whole := samples.Spans(60, 50)
 	before := slices.Clone(whole)
 	s := of(t, whole[:40]...)
 	wrong := append(slices.Clone(whole), span(0, 9, 1))
@@ -263,30 +202,22 @@ func TestNoListThatIsGivenIsChangedNorKept(t *testing.T) {
 }
 
 func TestNamesAreToldInMemoryOfTheirOwn(t *testing.T) {
-	l := mixed(50, 30)
+	l := samples.Spans(50, 30)
 	s := of(t, l...)
 	for x := range int64(30) {
 		kept, _ := s.Stab(x)
 		names, _ := s.Stab(x)
-		spoil(names)
+		samples.Spoil(names, 77)
 		if !slices.Equal(kept, namesByHand(l, x)) {
 			t.Fatalf("two answers for %d share memory", x)
 		}
-		spoil(kept)
+		samples.Spoil(kept, 77)
 	}
 	holds(t, s, l, l)
 }
 
-// spoil writes over a list and the room behind it.
-func spoil(l []uint32) {
-	l = l[:cap(l)]
-	for i := range l {
-		l[i] = 77
-	}
-}
-
 func TestAskingChangesNothing(t *testing.T) {
-	l := mixed(40, 30)
+	l := samples.Spans(40, 30)
 	s := of(t, l...)
 	for range 3 {
 		holds(t, s, l, l)
@@ -300,7 +231,7 @@ func TestAskingChangesNothing(t *testing.T) {
 }
 
 func TestTreesHaveNothingToDoWithOneAnother(t *testing.T) {
-	l := mixed(30, 20)
+	l := samples.Spans(30, 20)
 	one, other := of(t, l...), of(t, l...)
 	for i, x := range l {
 		dropped(t, one, x, true)

@@ -6,6 +6,7 @@ import (
 	"testing"
 
 	"gridiron/api"
+	"gridiron/samples"
 	"gridiron/seg"
 )
 
@@ -27,15 +28,6 @@ func of(t *testing.T, l ...api.Span) *seg.Seg {
 		t.Fatalf("Build of %v: %v, %d", l, s, errno)
 	}
 	return s
-}
-
-// log tells how often 1 must be doubled to be n at least.
-func log(n int) int {
-	times := 0
-	for k := 1; k < n; k *= 2 {
-		times++
-	}
-	return times
 }
 
 // endsOf are the ends of all spans, each once, rising.
@@ -103,7 +95,7 @@ func numbersAt(ends []int64) []int64 {
 // stabs fails unless x stabs just the spans of these names, and few things are touched for it in a tree that was built of n spans.
 func stabs(t *testing.T, s *seg.Seg, n int, x int64, want ...uint32) {
 	t.Helper()
-	most := 2*log(4*n+4) + 2
+	most := 2*samples.Log(4*n+4) + 2
 	names, touched := s.Stab(x)
 	if !slices.Equal(names, want) || touched < len(want) || touched > len(want)+most {
 		t.Fatalf("Stab of %d: %v, %d touched; not %v, and at most %d beside them", x, names, touched, want, most)
@@ -202,7 +194,7 @@ func TestNoSpans(t *testing.T) {
 }
 
 func TestLenAndWeightGoDownAsSpansAreDropped(t *testing.T) {
-	l := mixed(60, 40)
+	l := samples.Spans(60, 40)
 	s := of(t, l...)
 	for i, x := range l {
 		holds(t, s, l, l[i:])

@@ -1,0 +1,76 @@
+package samples_test
+
+import (
+	"slices"
+	"testing"
+
+	"gridiron/api"
+	"gridiron/item"
+	"gridiron/lists"
+	"gridiron/samples"
+)
+
+func TestTurnsGoRoundBelowWhatIsHandedIn(t *testing.T) {
+	next, again := samples.Turns(5), samples.Turns(5)
+	times := make([]int, 7)
+	for range 700 {
+		turn := next(7)
+		if turn != again(7) {
+			t.Fatal("turns of one seed are unlike")
+		}
+		times[turn]++
+	}
+	if slices.Min(times) < 50 {
+		t.Errorf("how often each number of seven comes: %v", times)
+	}
+}
+
+func TestLog(t *testing.T) {
+	for n, want := range []int{0, 0, 1, 2, 2, 3, 3, 3, 3, 4} {
+		if got := samples.Log(n); got != want {
+			t.Errorf("Log of %d: %d", n, got)
+		}
+	}
+}
+
+func TestOrders(t *testing.T) {
+	want := [][]int{{1, 2, 3}, {1, 3, 2}, {2, 1, 3}, {2, 3, 1}, {3, 1, 2}, {3, 2, 1}}
+	if got := samples.Orders([]int{1, 2, 3}); !slices.EqualFunc(got, want, slices.Equal) {
+		t.Errorf("of 1 2 3: %v", got)
+	}
+	l := []int{4, 1, 3, 2, 5, 6, 7}
+	other := samples.Shuffled(l, 1)
+	if slices.Equal(l, other) {
+		t.Errorf("%v is as it was", l)
+	}
+	slices.Sort(l)
+	slices.Sort(other)
+	if !slices.Equal(l, other) {
+		t.Errorf("%v is %v in another order", other, l)
+	}
+}
+
+func TestSpoilWritesOverTheRoomToo(t *testing.T) {
+	whole := []int{1, 2, 3}
+	samples.Spoil(whole[:1], 9)
+	if !slices.Equal(whole, []int{9, 9, 9}) {
+		t.Errorf("%v", whole)
+	}
+}
+
+func TestSpansAreRight(t *testing.T) {
+	for _, l := range [][]api.Span{samples.Spans(1000, 50), samples.ShortSpans(1000, 50, 3)} {
+		if len(l) != 1000 || !lists.RightSpans(l) || slices.IsSortedFunc(l, item.ByLo) {
+			t.Errorf("%d spans, of which the first are %v", len(l), l[:10])
+		}
+	}
+	few := samples.FewSpans(2, 3)
+	if len(few) != 36 {
+		t.Errorf("%d lists of two spans each of which is one of six", len(few))
+	}
+	for i, l := range few {
+		if !lists.RightSpans(l) || slices.ContainsFunc(few[:i], func(other []api.Span) bool { return slices.Equal(l, other) }) {
+			t.Errorf("%v", l)
+		}
+	}
+}
