@@ -67,14 +67,7 @@ func TestWhatIsDroppedIsNotGoneOver(t *testing.T) {
 	const n = 3000
 	rising := samples.ShortSpans(n, 100000, 40)
 	slices.SortFunc(rising, func(s, u api.Span) int { return int(s.Lo - u.Lo) })
-	falling := slices.Clone(rising)
-	slices.Reverse(falling)
-	var inward, outward []api.Span
-	for i := range n / 2 {
-		inward = append(inward, rising[i], falling[i])
-		outward = append([]api.Span{rising[i], falling[i]}, outward...)
-	}
-	for name, order := range map[string][]api.Span{"rising": rising, "falling": falling, "from both sides": inward, "to both sides": outward, "in no order": samples.Shuffled(rising, 3)} {
+	for name, order := range samples.Ways(rising) {
 		t.Run(name, func(t *testing.T) {
 			v := of(t, rising...)
 			for i, x := range order {

@@ -9,10 +9,20 @@ import (
 
 // RightSpans tells whether all spans are right, and no two of one name.
 func RightSpans(l []api.Span) bool {
-	times := map[uint32]int{}
+	isNew := names()
 	for _, x := range l {
-		times[x.ID]++
-		if times[x.ID] > 1 || !item.RightSpan(x) {
+		if !isNew(x.ID) || !item.RightSpan(x) {
+			return false
+		}
+	}
+	return true
+}
+
+// RightPoints tells whether no two points are of one name.
+func RightPoints(l []api.Point) bool {
+	isNew := names()
+	for _, p := range l {
+		if !isNew(p.ID) {
 			return false
 		}
 	}
@@ -26,4 +36,13 @@ func Ends(l []api.Span) []int64 {
 		list = append(list, x.Lo, x.Hi)
 	}
 	return rank.Squeeze(list)
+}
+
+// names makes a call that tells whether it is handed a name for the first time.
+func names() func(name uint32) bool {
+	times := map[uint32]int{}
+	return func(name uint32) bool {
+		times[name]++
+		return times[name] == 1
+	}
 }

@@ -50,6 +50,21 @@ func Orders[T any](l []T) [][]T {
 	return all
 }
 
+// Ways are some orders of things that rise, by what they are called.
+func Ways[T any](rising []T) map[string][]T {
+	falling := slices.Clone(rising)
+	slices.Reverse(falling)
+	var inward []T
+	for i := range rising {
+		inward = append(inward, rising[i], falling[i])
+	}
+	// Behind the first half all come once more.
+	inward = inward[:len(rising)]
+	outward := slices.Clone(inward)
+	slices.Reverse(outward)
+	return map[string][]T{"rising": rising, "falling": falling, "from both sides": inward, "to both sides": outward, "in no order": Shuffled(rising, 4)}
+}
+
 // Spoil writes over a list and the room behind it.
 func Spoil[T any](l []T, with T) {
 	l = l[:cap(l)]
@@ -88,15 +103,44 @@ func ShortSpans(n, unlike, long int) []api.Span {
 
 // FewSpans are all lists of n right spans with ends from 0 on, below ends; their names fall.
 func FewSpans(n, ends int) [][]api.Span {
-	if n == 0 {
-		return [][]api.Span{nil}
+	var one []api.Span
+	for lo := range ends {
+		for hi := lo; hi < ends; hi++ {
+			one = append(one, api.Span{Lo: int64(lo), Hi: int64(hi)})
+		}
 	}
-	var all [][]api.Span
-	for _, l := range FewSpans(n-1, ends) {
-		for lo := range ends {
-			for hi := lo; hi < ends; hi++ {
-				all = append(all, append(slices.Clone(l), api.Span{Lo: int64(lo), Hi: int64(hi), ID: uint32(10 - n)}))
-			}
+	return few(n, one, func(x *api.Span, name uint32) { x.ID = name })
+}
+
+// Points are n points with X and Y from 0 on, below unlike.
+func Points(n, unlike int) []api.Point {
+	next := Turns(n*13 + unlike)
+	var l []api.Point
+	for i := range n {
+		l = append(l, api.Point{X: int64(next(unlike)), Y: int64(next(unlike)), ID: Name(i)})
+	}
+	return l
+}
+
+// FewPoints are all lists of n points with X and Y from 0 on, below side; their names fall.
+func FewPoints(n, side int) [][]api.Point {
+	var one []api.Point
+	for place := range side * side {
+		one = append(one, api.Point{X: int64(place / side), Y: int64(place % side)})
+	}
+	return few(n, one, func(p *api.Point, name uint32) { p.ID = name })
+}
+
+// few are all lists of n things, each of which is as one of these, and is called by a name; the names fall.
+func few[T any](n int, one []T, call func(x *T, name uint32)) [][]T {
+	if n == 0 {
+		return [][]T{nil}
+	}
+	var all [][]T
+	for _, l := range few(n-1, one, call) {
+		for _, x := range one {
+			call(&x, uint32(10-n))
+			all = append(all, append(slices.Clone(l), x))
 		}
 	}
 	return all

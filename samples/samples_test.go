@@ -50,6 +50,21 @@ func TestOrders(t *testing.T) {
 	}
 }
 
+func TestWays(t *testing.T) {
+	for _, rising := range [][]int{{}, {1}, {1, 2, 3, 4, 5, 6, 7}, {1, 2, 3, 4, 5, 6, 7, 8}} {
+		for name, way := range samples.Ways(rising) {
+			sorted := slices.Sorted(slices.Values(way))
+			if !slices.Equal(sorted, rising) || len(rising) > 1 && slices.IsSorted(way) != (name == "rising") {
+				t.Errorf("%s: %v", name, way)
+			}
+		}
+	}
+	ways := samples.Ways([]int{1, 2, 3, 4, 5})
+	if !slices.Equal(ways["from both sides"], []int{1, 5, 2, 4, 3}) || !slices.Equal(ways["to both sides"], []int{3, 4, 2, 5, 1}) {
+		t.Errorf("%v", ways)
+	}
+}
+
 func TestSpoilWritesOverTheRoomToo(t *testing.T) {
 	whole := []int{1, 2, 3}
 	samples.Spoil(whole[:1], 9)
@@ -68,8 +83,26 @@ func TestSpansAreRight(t *testing.T) {
 	if len(few) != 36 {
 		t.Errorf("%d lists of two spans each of which is one of six", len(few))
 	}
-	for i, l := range few {
-		if !lists.RightSpans(l) || slices.ContainsFunc(few[:i], func(other []api.Span) bool { return slices.Equal(l, other) }) {
+	eachOnce(t, few, lists.RightSpans)
+}
+
+func TestPointsAreRight(t *testing.T) {
+	l := samples.Points(1000, 50)
+	if len(l) != 1000 || !lists.RightPoints(l) || slices.IsSortedFunc(l, item.ByX) || slices.IsSortedFunc(l, item.ByY) {
+		t.Errorf("%d points, of which the first are %v", len(l), l[:10])
+	}
+	few := samples.FewPoints(2, 3)
+	if len(few) != 81 {
+		t.Errorf("%d lists of two points each of which is at one of nine places", len(few))
+	}
+	eachOnce(t, few, lists.RightPoints)
+}
+
+// eachOnce fails unless all lists are right, and no two the same.
+func eachOnce[T comparable](t *testing.T, all [][]T, right func(l []T) bool) {
+	t.Helper()
+	for i, l := range all {
+		if !right(l) || slices.ContainsFunc(all[:i], func(other []T) bool { return slices.Equal(l, other) }) {
 			t.Errorf("%v", l)
 		}
 	}
