@@ -2,33 +2,33 @@ package alive
 
 // Drops are how many of the places from 0 on, ahead of an end, were dropped.
 type Drops struct {
-	// The n-th of these, counted from 1 on, is how many of the last places ahead of n were dropped: of as many as n's lowest binary digit that is not 0 is worth. So each count, and each drop, has to do with one of them a binary digit.
-	shares []int
+	// So many places make up a stretch. There are about as many stretches, so that a count has to do with two numbers, and a drop with few of both kinds.
+	size   int
+	ahead  []int // by stretches: how many of the places ahead of it were dropped
+	within []int // by places, and the end: how many of those ahead of it, in its own stretch, were dropped
 }
 
 // DropsOf makes the places ahead of end, of which none was dropped.
 func DropsOf(end int) Drops {
-	return Drops{shares: make([]int, end)}
+	size := 1
+	for size*size <= end {
+		size++
+	}
+	return Drops{size: size, ahead: make([]int, end/size+1), within: make([]int, end+1)}
 }
 
 // Add counts a place ahead of the end as dropped.
 func (d *Drops) Add(place int) {
-	for n := place + 1; n <= len(d.shares); n += lowest(n) {
-		d.shares[n-1]++
+	stretch := place / d.size
+	for next := place + 1; next < min((stretch+1)*d.size, len(d.within)); next++ {
+		d.within[next]++
+	}
+	for next := stretch + 1; next < len(d.ahead); next++ {
+		d.ahead[next]++
 	}
 }
 
-// Ahead tells how many of the places ahead of this one were dropped, and how many cells were looked at for that: not more than the place has binary digits.
-func (d *Drops) Ahead(place int) (int, int) {
-	count, looked := 0, 0
-	for n := place; n > 0; n -= lowest(n) {
-		count += d.shares[n-1]
-		looked++
-	}
-	return count, looked
-}
-
-// lowest tells what the lowest binary digit of n that is not 0 is worth.
-func lowest(n int) int {
-	return n & -n
+// Ahead tells how many of the places ahead of this one were dropped.
+func (d *Drops) Ahead(place int) int {
+	return d.ahead[place/d.size] + d.within[place]
 }

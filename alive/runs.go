@@ -1,4 +1,4 @@
-// Package alive is beside the layers: of places in a row, of which some were dropped, it tells which are there, and how many.
+// Package alive is beside the layers: of places in a row, of which some were dropped, and of the names that stand there, it tells which are there, and how many.
 package alive
 
 // Runs are the places from 0 on, ahead of an end, each of which is there till it is dropped. The end is a place that is always there.

@@ -10,23 +10,11 @@ import (
 	"gridiron/samples"
 )
 
-const (
-	least    = math.MinInt64
-	greatest = math.MaxInt64
+var (
+	point = samples.Point
+	box   = samples.Box
+	whole = samples.Whole()
 )
-
-// whole has all points.
-var whole = box(least, greatest, least, greatest)
-
-// point is the point of that name at x, y.
-func point(id uint32, x, y int64) api.Point {
-	return api.Point{X: x, Y: y, ID: id}
-}
-
-// box is the box from x1 to x2 and from y1 to y2; its name says nothing.
-func box(x1, x2, y1, y2 int64) api.Box {
-	return api.Box{X1: x1, X2: x2, Y1: y1, Y2: y2, ID: 1}
-}
 
 // of is a tree of these points.
 func of(t *testing.T, l ...api.Point) *band.Band {
@@ -36,18 +24,6 @@ func of(t *testing.T, l ...api.Point) *band.Band {
 		t.Fatalf("Build of %v: %v, %d", l, v, errno)
 	}
 	return v
-}
-
-// namesByHand are the names of the points that b has, rising.
-func namesByHand(l []api.Point, b api.Box) []uint32 {
-	var names []uint32
-	for _, p := range l {
-		if b.X1 <= p.X && p.X <= b.X2 && b.Y1 <= p.Y && p.Y <= b.Y2 {
-			names = append(names, p.ID)
-		}
-	}
-	slices.Sort(names)
-	return names
 }
 
 // over tells how many nodes are over that leaf of n: of an odd number the first half has more.
@@ -113,51 +89,15 @@ func sizes(t *testing.T, v *band.Band, all, l []api.Point) {
 func holds(t *testing.T, v *band.Band, all, l []api.Point) {
 	t.Helper()
 	sizes(t, v, all, l)
-	for _, b := range boxesAt(all) {
-		has(t, v, len(all), b, namesByHand(l, b)...)
+	for _, b := range samples.BoxesAt(all) {
+		has(t, v, len(all), b, samples.In(l, b)...)
 	}
-}
-
-// boxesAt are boxes whose sides lie at the points, beside them, and at the least and the greatest number, the wrong way round, too: of few points all there are, of more some of them.
-func boxesAt(l []api.Point) []api.Box {
-	xs, ys := numbersAt(l, func(p api.Point) int64 { return p.X }), numbersAt(l, func(p api.Point) int64 { return p.Y })
-	var boxes []api.Box
-	const some = 1300
-	if len(xs)*len(xs)*len(ys)*len(ys) > some {
-		next := samples.Turns(len(l))
-		x, y := func() int64 { return xs[next(len(xs))] }, func() int64 { return ys[next(len(ys))] }
-		for range some / 2 {
-			boxes = append(boxes, box(x(), x(), y(), y()))
-		}
-		return append(boxes, box(least, greatest, y(), y()), box(x(), x(), least, greatest), whole)
-	}
-	for _, x1 := range xs {
-		for _, x2 := range xs {
-			for _, y1 := range ys {
-				for _, y2 := range ys {
-					boxes = append(boxes, box(x1, x2, y1, y2))
-				}
-			}
-		}
-	}
-	return boxes
-}
-
-// numbersAt are the points' numbers, those beside them, and the least and the greatest number; each once, rising.
-func numbersAt(l []api.Point, number func(p api.Point) int64) []int64 {
-	numbers := []int64{least, greatest}
-	for _, p := range l {
-		at := number(p)
-		numbers = append(numbers, max(at, least+1)-1, at, min(at, greatest-1)+1)
-	}
-	slices.Sort(numbers)
-	return slices.Compact(numbers)
 }
 
 // The chapter's examples.
 
 func TestTheChaptersExamples(t *testing.T) {
-	l := []api.Point{point(1, 0, 0), point(2, 2, 5), point(3, 2, 1), point(4, 7, 3)}
+	l := samples.FourPoints()
 	v := of(t, l...)
 	has(t, v, 4, box(0, 2, 1, 5), 2, 3)
 	has(t, v, 4, box(2, 2, 1, 1), 3)
@@ -178,15 +118,7 @@ func TestTheChaptersExamples(t *testing.T) {
 // P10.1
 
 func TestBuildOfWhatIsNotRight(t *testing.T) {
-	cases := map[string][]api.Point{
-		"two of one name":                      {point(1, 0, 0), point(1, 0, 3)},
-		"two that are the same":                {point(7, 2, 3), point(7, 2, 3)},
-		"two of one name far from one another": {point(7, 0, 3), point(8, 1, 1), point(9, 2, 2), point(7, 9, 9)},
-		"two of the least name":                {point(0, 0, 0), point(0, 1, 1)},
-		"two of the greatest name":             {point(math.MaxUint32, 0, 0), point(1, 1, 1), point(math.MaxUint32, 0, 0)},
-		"three of one name":                    {point(5, 0, 0), point(5, 1, 1), point(5, 2, 2)},
-	}
-	for name, l := range cases {
+	for name, l := range samples.WrongPoints() {
 		t.Run(name, func(t *testing.T) {
 			if v, errno := band.Build(l); v != nil || errno != api.ErrArg {
 				t.Errorf("Build of %v: %v, %d", l, v, errno)
@@ -247,41 +179,10 @@ func TestInWhichListsPointsStand(t *testing.T) {
 // P10.2
 
 func TestBoxesAtWhoseSidesPointsLie(t *testing.T) {
-	v := of(t, point(5, -3, 2), point(9, 2, 2), point(1, 2, 8), point(7, 8, -4), point(3, 10, 20), point(2, 8, 8))
-	cases := []struct {
-		name string
-		b    api.Box
-		want []uint32
-	}{
-		{"at all four sides", box(-3, 10, -4, 20), []uint32{1, 2, 3, 5, 7, 9}},
-		{"within all four sides", box(-2, 9, -3, 19), []uint32{1, 2, 9}},
-		{"at the left side", box(-3, 1, 0, 9), []uint32{5}},
-		{"at the right side", box(-2, 2, 0, 9), []uint32{1, 9}},
-		{"at the lower side", box(0, 9, 2, 7), []uint32{9}},
-		{"at the upper side", box(0, 9, 3, 8), []uint32{1, 2}},
-		{"at corners", box(2, 8, 2, 8), []uint32{1, 2, 9}},
-		{"at one corner", box(8, 10, -9, -4), []uint32{7}},
-		{"one place", box(2, 2, 8, 8), []uint32{1}},
-		{"one place, at which none is", box(2, 2, 7, 7), nil},
-		{"one X", box(8, 8, least, greatest), []uint32{2, 7}},
-		{"one Y", box(least, greatest, 8, 8), []uint32{1, 2}},
-		{"beside all by X", box(3, 7, -9, 30), nil},
-		{"beside all by Y", box(-9, 30, 9, 19), nil},
-		{"left of all", box(-9, -4, -9, 30), nil},
-		{"right of all", box(11, 12, -9, 30), nil},
-		{"below all", box(-9, 30, -9, -5), nil},
-		{"above all", box(-9, 30, 21, 22), nil},
-		{"X1 above X2", box(3, 2, -9, 30), nil},
-		{"X1 above X2, over all", box(10, -3, -4, 20), nil},
-		{"Y1 above Y2", box(-9, 30, 3, 2), nil},
-		{"Y1 above Y2, over all", box(-3, 10, 20, -4), nil},
-		{"both above", box(10, -3, 20, -4), nil},
-		{"the wrong way round by all numbers", box(greatest, least, greatest, least), nil},
-		{"all numbers", whole, []uint32{1, 2, 3, 5, 7, 9}},
-	}
-	for _, c := range cases {
-		t.Run(c.name, func(t *testing.T) {
-			has(t, v, 6, c.b, c.want...)
+	v := of(t, samples.SixPoints()...)
+	for name, b := range samples.BoxesOfSix() {
+		t.Run(name, func(t *testing.T) {
+			has(t, v, 6, b.Box, b.Names...)
 		})
 	}
 }
@@ -295,39 +196,17 @@ func TestTheBoxesNameSaysNothing(t *testing.T) {
 	}
 }
 
-func TestPointsInARow(t *testing.T) {
-	cases := map[string]func(i int) api.Point{
-		"at one place":                          func(i int) api.Point { return point(uint32(90-i), 4, -4) },
-		"of one X":                              func(i int) api.Point { return point(uint32(90-i), 4, int64(i)) },
-		"of one X, falling":                     func(i int) api.Point { return point(uint32(i), 4, int64(-i)) },
-		"of one Y":                              func(i int) api.Point { return point(uint32(i), int64(i), 4) },
-		"of one Y, falling":                     func(i int) api.Point { return point(uint32(i), int64(-i), 4) },
-		"rising both ways":                      func(i int) api.Point { return point(uint32(i), int64(i), int64(i)) },
-		"the one way rising, the other falling": func(i int) api.Point { return point(uint32(i), int64(i), int64(-i)) },
-		"of two X, and of three Y":              func(i int) api.Point { return point(uint32(90-i), int64(i%2), int64(i%3)) },
-		"at the least and the greatest numbers": func(i int) api.Point {
-			return point(uint32(i), []int64{least, greatest}[i%2], []int64{greatest, least}[i/2%2])
-		},
-		"beside the least and the greatest":       func(i int) api.Point { return point(uint32(i), []int64{least + 1, greatest - 1}[i%2], least+int64(i)) },
-		"of one X, one of them far from all":      func(i int) api.Point { return point(uint32(i), 4, []int64{0, greatest}[i/9]) },
-		"of one Y, which is the greatest number":  func(i int) api.Point { return point(uint32(i), int64(i/3), greatest) },
-		"of one X, which is the least number":     func(i int) api.Point { return point(uint32(i), least, int64(i/4)) },
-		"at places that are one another's mirror": func(i int) api.Point { return point(uint32(i), int64(i), int64(9-i)) },
-	}
-	for name, at := range cases {
+func TestHowPointsLie(t *testing.T) {
+	for name, l := range samples.HowPointsLie() {
 		t.Run(name, func(t *testing.T) {
-			var l []api.Point
-			for i := range 10 {
-				l = append(l, at(i))
-			}
 			for n := range l {
 				some := l[:n+1]
-				v := of(t, some...)
+				v, order := of(t, some...), samples.Shuffled(some, n)
 				holds(t, v, some, some)
-				for i, p := range samples.Shuffled(some, n) {
+				for i, p := range order {
 					dropped(t, v, p, true)
 					if i == n/2 {
-						holds(t, v, some, samples.Shuffled(some, n)[i+1:])
+						holds(t, v, some, order[i+1:])
 					}
 				}
 				holds(t, v, some, nil)
@@ -351,15 +230,9 @@ func TestNamesRiseAsNumbersOf32BitsDo(t *testing.T) {
 // P10.3
 
 func TestDropOfWhatIsNotThere(t *testing.T) {
-	l := []api.Point{point(1, 0, 0), point(2, 2, 5), point(3, 2, 1), point(4, 7, 3)}
+	l := samples.FourPoints()
 	v := of(t, l...)
-	for _, p := range []api.Point{
-		point(2, 0, 0), point(1, 2, 5), point(3, 2, 5), point(2, 2, 1), point(4, 2, 1), // another one's place
-		point(1, 0, 1), point(1, 1, 0), point(1, -1, 0), point(1, 0, -1), point(2, 2, 0), point(4, 7, 5), point(4, 2, 3), // one coordinate alone
-		point(2, 5, 2), point(3, 1, 2), point(4, 3, 7), // X and Y exchanged
-		point(1, least, 0), point(1, 0, least), point(4, greatest, 3), point(4, 7, greatest), point(4, greatest, greatest),
-		point(0, 0, 0), point(5, 7, 3), point(math.MaxUint32, 2, 5), {}, // no such name
-	} {
+	for _, p := range samples.NoneOfFour() {
 		dropped(t, v, p, false)
 		holds(t, v, l, l)
 	}

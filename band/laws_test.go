@@ -1,12 +1,14 @@
 package band_test
 
 import (
+	"math"
 	"slices"
 	"testing"
 
 	"gridiron/api"
 	"gridiron/band"
 	"gridiron/frame"
+	"gridiron/item"
 	"gridiron/rank"
 	"gridiron/samples"
 )
@@ -92,10 +94,10 @@ func TestWhatIsDroppedIsNotGoneOver(t *testing.T) {
 			for i, p := range order {
 				left := order[i:]
 				if i%(n/10) == 0 || len(left) < 4 {
-					has(t, v, n, whole, namesByHand(left, whole)...)
+					has(t, v, n, whole, samples.In(left, whole)...)
 					for _, q := range []api.Point{rising[0], rising[n/2], rising[n-1], p, order[i/2], order[n-1]} {
-						for _, b := range []api.Box{box(q.X, q.X, q.Y, q.Y), box(least, q.X, q.Y, greatest), box(q.X, greatest, least, q.Y), box(q.X-9000, q.X+9000, q.Y-9000, q.Y+9000)} {
-							has(t, v, n, b, namesByHand(left, b)...)
+						for _, b := range []api.Box{box(q.X, q.X, q.Y, q.Y), box(math.MinInt64, q.X, q.Y, math.MaxInt64), box(q.X, math.MaxInt64, math.MinInt64, q.Y), box(q.X-9000, q.X+9000, q.Y-9000, q.Y+9000)} {
+							has(t, v, n, b, samples.In(left, b)...)
 						}
 					}
 				}
@@ -106,28 +108,42 @@ func TestWhatIsDroppedIsNotGoneOver(t *testing.T) {
 	}
 }
 
-func TestWhatIsTouchedHasTheCellsOfTheRowAndTheNodes(t *testing.T) {
+func TestWhatIsTouchedHasCellsAndNodes(t *testing.T) {
 	l := samples.Points(100, 60)
 	v := of(t, l...)
 	leaves, _ := frame.New(len(l))
-	var row []int64
-	for _, p := range l {
-		row = append(row, p.X)
-	}
-	slices.Sort(row)
-	for _, b := range boxesAt(l) {
-		if b.X1 > b.X2 || b.Y1 > b.Y2 {
+	nodes := leaves.Nodes()
+	row := slices.SortedFunc(slices.Values(l), item.ByX)
+	xs := risingOf(row, func(p api.Point) int64 { return p.X })
+	for _, b := range samples.BoxesAt(l) {
+		if !item.RightBox(b) {
 			continue
 		}
-		from, looked := rank.First(row, b.X1)
-		to, seen := rank.Above(row, b.X2)
-		_, entered, _ := leaves.Canon(from, to)
+		from, looked := rank.First(xs, b.X1)
+		to, seen := rank.Above(xs, b.X2)
+		canonical, entered, _ := leaves.Canon(from, to)
+		fewest := looked + seen + entered
+		for _, place := range canonical {
+			list := row[nodes[place].From:nodes[place].To]
+			_, looked := rank.First(risingOf(list, func(p api.Point) int64 { return p.Y }), b.Y1)
+			fewest += looked
+		}
 		names, reported := v.Report(b)
 		_, counted := v.Count(b)
-		if fewest := looked + seen + entered; reported < fewest+len(names) || counted < fewest {
-			t.Fatalf("of %v: Report touches %d and tells %d, Count touches %d, but %d are cells of the row and nodes", b, reported, len(names), counted, fewest)
+		if reported < fewest+len(names) || counted < fewest {
+			t.Fatalf("of %v: Report touches %d and tells %d, Count touches %d, but %d are cells and nodes", b, reported, len(names), counted, fewest)
 		}
 	}
+}
+
+// risingOf are the points' numbers, rising.
+func risingOf(l []api.Point, number func(p api.Point) int64) []int64 {
+	var numbers []int64
+	for _, p := range l {
+		numbers = append(numbers, number(p))
+	}
+	slices.Sort(numbers)
+	return numbers
 }
 
 func TestManyPointsAtOnePlace(t *testing.T) {
@@ -155,15 +171,15 @@ func TestManyPoints(t *testing.T) {
 	if v.Len() != n || v.Weight() < n || v.Weight() > n*(samples.Log(n+1)+1) {
 		t.Fatalf("Len: %d, Weight: %d", v.Len(), v.Weight())
 	}
-	some := []int64{least, -1, 0, unlike / 3, unlike / 2, l[0].X, l[1].Y, l[2].X - 1, l[3].Y + 1, unlike, greatest}
+	some := []int64{math.MinInt64, -1, 0, unlike / 3, unlike / 2, l[0].X, l[1].Y, l[2].X - 1, l[3].Y + 1, unlike, math.MaxInt64}
 	order := samples.Shuffled(l, 5)
 	for i, p := range order {
 		if i%7000 == 0 {
 			for turn, x := range some {
 				b := box(x, some[turn*3%len(some)], some[turn*7%len(some)], some[turn*5%len(some)])
-				has(t, v, n, b, namesByHand(order[i:], b)...)
+				has(t, v, n, b, samples.In(order[i:], b)...)
 				b = box(x, x/2+unlike/2, 0, unlike/2)
-				has(t, v, n, b, namesByHand(order[i:], b)...)
+				has(t, v, n, b, samples.In(order[i:], b)...)
 			}
 		}
 		dropped(t, v, p, true)
@@ -228,7 +244,7 @@ func TestWithCoordinatesExchangedTheSamePointsAreToldOf(t *testing.T) {
 		one, two := of(t, l...), of(t, other...)
 		for i, p := range l {
 			if i%9 == 0 {
-				for _, b := range boxesAt(l) {
+				for _, b := range samples.BoxesAt(l) {
 					names, _ := one.Report(b)
 					has(t, two, len(l), box(b.Y1, b.Y2, b.X1, b.X2), names...)
 				}
@@ -251,7 +267,7 @@ func TestTheOrderInWhichPointsAreHandedInSaysNothing(t *testing.T) {
 				if one.Weight() != other.Weight() {
 					t.Fatalf("Weight: %d and %d", one.Weight(), other.Weight())
 				}
-				same(t, one, other, boxesAt(l))
+				same(t, one, other, samples.BoxesAt(l))
 			}
 		}
 	}
@@ -282,7 +298,7 @@ func TestTheSamePointsLeftAreToldOfWhicheverWereDropped(t *testing.T) {
 			dropped(t, v, p, true)
 		}
 		holds(t, v, l, left)
-		same(t, v, of(t, left...), boxesAt(l))
+		same(t, v, of(t, left...), samples.BoxesAt(l))
 	}
 }
 
@@ -315,7 +331,7 @@ func TestNamesAreToldInMemoryOfTheirOwn(t *testing.T) {
 			kept, _ := v.Report(b)
 			names, _ := v.Report(b)
 			samples.Spoil(names, 77)
-			if !slices.Equal(kept, namesByHand(l, b)) {
+			if !slices.Equal(kept, samples.In(l, b)) {
 				t.Fatalf("two answers for %v share memory", b)
 			}
 			samples.Spoil(kept, 77)

@@ -1,4 +1,4 @@
-// Package lists is beside the layers: it tells what several of them ask of the lists that they are handed.
+// Package lists is beside the layers: it tells what several of them ask of the lists that they are handed, and puts points in a row.
 package lists
 
 import (

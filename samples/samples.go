@@ -112,25 +112,6 @@ func FewSpans(n, ends int) [][]api.Span {
 	return few(n, one, func(x *api.Span, name uint32) { x.ID = name })
 }
 
-// Points are n points with X and Y from 0 on, below unlike.
-func Points(n, unlike int) []api.Point {
-	next := Turns(n*13 + unlike)
-	var l []api.Point
-	for i := range n {
-		l = append(l, api.Point{X: int64(next(unlike)), Y: int64(next(unlike)), ID: Name(i)})
-	}
-	return l
-}
-
-// FewPoints are all lists of n points with X and Y from 0 on, below side; their names fall.
-func FewPoints(n, side int) [][]api.Point {
-	var one []api.Point
-	for place := range side * side {
-		one = append(one, api.Point{X: int64(place / side), Y: int64(place % side)})
-	}
-	return few(n, one, func(p *api.Point, name uint32) { p.ID = name })
-}
-
 // few are all lists of n things, each of which is as one of these, and is called by a name; the names fall.
 func few[T any](n int, one []T, call func(x *T, name uint32)) [][]T {
 	if n == 0 {

@@ -1,6 +1,7 @@
 package samples_test
 
 import (
+	"math"
 	"slices"
 	"testing"
 
@@ -105,5 +106,64 @@ func eachOnce[T comparable](t *testing.T, all [][]T, right func(l []T) bool) {
 		if !right(l) || slices.ContainsFunc(all[:i], func(other []T) bool { return slices.Equal(l, other) }) {
 			t.Errorf("%v", l)
 		}
+	}
+}
+
+func TestHowPointsLie(t *testing.T) {
+	for name, l := range samples.HowPointsLie() {
+		if len(l) != 10 || !lists.RightPoints(l) {
+			t.Errorf("%s: %v", name, l)
+		}
+	}
+	for name, l := range samples.WrongPoints() {
+		if lists.RightPoints(l) {
+			t.Errorf("%s: %v", name, l)
+		}
+	}
+	four := samples.FourPoints()
+	for _, p := range samples.NoneOfFour() {
+		if slices.Contains(four, p) {
+			t.Errorf("%v", p)
+		}
+	}
+}
+
+func TestWhatABoxHas(t *testing.T) {
+	l := samples.SixPoints()
+	for name, b := range samples.BoxesOfSix() {
+		var names []uint32
+		for _, p := range l {
+			if item.In(p, b.Box) {
+				names = append(names, p.ID)
+			}
+		}
+		slices.Sort(names)
+		if !slices.Equal(b.Names, names) || !slices.Equal(samples.In(l, b.Box), names) {
+			t.Errorf("%s: %v has %v, not %v", name, b.Box, names, b.Names)
+		}
+	}
+	if names := samples.In(l, samples.Whole()); len(names) != len(l) {
+		t.Errorf("all numbers: %v", names)
+	}
+}
+
+func TestBoxesAtPoints(t *testing.T) {
+	one := []api.Point{{X: 3, Y: 4}}
+	few := samples.BoxesAt(one)
+	if len(few) != 5*5*5*5 || !slices.Contains(few, samples.Box(3, 3, 4, 4)) || !slices.Contains(few, samples.Box(4, 2, 3, 5)) || !slices.Contains(few, samples.Whole()) {
+		t.Errorf("at one point: %d boxes", len(few))
+	}
+	if edges := samples.BoxesAt([]api.Point{{X: math.MinInt64, Y: math.MaxInt64}}); len(edges) != 3*3*3*3 {
+		t.Errorf("at the least and the greatest number: %d boxes", len(edges))
+	}
+	many := samples.BoxesAt(samples.Points(30, 60))
+	having := 0
+	for _, b := range many {
+		if item.RightBox(b) {
+			having++
+		}
+	}
+	if len(many) > 1300 || having < 100 || having == len(many) {
+		t.Errorf("at thirty points: %d boxes, of which %d are right", len(many), having)
 	}
 }
