@@ -32,26 +32,17 @@ func TestAllOrdersInWhichFewPointsAreDropped(t *testing.T) {
 }
 
 func TestManyPointsAreDroppedInAnyOrder(t *testing.T) {
-	for _, n := range []int{1, 2, 3, 7, 8, 9, 31, 64, 150} {
-		for _, unlike := range []int{1, 2, 7, 50, 5000} {
-			l := samples.Points(n, unlike)
-			goes(t, of(t, l...), samples.Shuffled(l, n+unlike), 1+n/7)
-		}
+	for i, l := range samples.MixedPoints() {
+		goes(t, of(t, l...), samples.Shuffled(l, i), 1+len(l)/7)
 	}
 }
 
 // P11.3
 
 func TestHowFewAreTouchedBehindAnyDrops(t *testing.T) {
-	for _, unlike := range []int{1, 40, 100000} {
-		l := samples.Points(2000, unlike)
-		ways := samples.Ways(slices.SortedFunc(slices.Values(l), item.ByY))
-		ways["rising by X"] = slices.SortedFunc(slices.Values(l), item.ByX)
-		for name, order := range ways {
-			t.Run(name, func(t *testing.T) { fewTouched(t, order) })
-		}
+	for name, order := range samples.ManyPoints() {
+		t.Run(name, func(t *testing.T) { fewTouched(t, order) })
 	}
-	t.Run("many points", func(t *testing.T) { fewTouched(t, samples.Points(30000, 1<<30)) })
 }
 
 // fewTouched fails unless few things are touched as all of these are dropped, whatever is asked for in between.

@@ -3,8 +3,10 @@ package samples
 import (
 	"math"
 	"slices"
+	"strconv"
 
 	"gridiron/api"
+	"gridiron/item"
 )
 
 const (
@@ -25,6 +27,31 @@ func Points(n, unlike int) []api.Point {
 		l = append(l, api.Point{X: int64(next(unlike)), Y: int64(next(unlike)), ID: Name(i)})
 	}
 	return l
+}
+
+// MixedPoints are lists of few and of many points, whose places are all the same, or mostly unlike.
+func MixedPoints() [][]api.Point {
+	var all [][]api.Point
+	for _, n := range []int{1, 2, 3, 7, 8, 9, 31, 64, 150} {
+		for _, unlike := range []int{1, 2, 7, 50, 5000} {
+			all = append(all, Points(n, unlike))
+		}
+	}
+	return all
+}
+
+// ManyPoints are thousands of points in some orders, by what they are called.
+func ManyPoints() map[string][]api.Point {
+	all := map[string][]api.Point{"most of all, in no order": Points(30000, 1<<30)}
+	for _, unlike := range []int{1, 40, 100000} {
+		l := Points(2000, unlike)
+		ways := Ways(slices.SortedFunc(slices.Values(l), item.ByY))
+		ways["rising by X"] = slices.SortedFunc(slices.Values(l), item.ByX)
+		for name, order := range ways {
+			all[name+", below "+strconv.Itoa(unlike)] = order
+		}
+	}
+	return all
 }
 
 // FewPoints are all lists of n points with X and Y from 0 on, below side; their names fall.
@@ -165,11 +192,7 @@ func In(l []api.Point, b api.Box) []uint32 {
 
 // BoxesAt are boxes whose sides lie at the points, beside them, and at the least and the greatest number, the wrong way round, too: of few points all there are, of more some of them.
 func BoxesAt(l []api.Point) []api.Box {
-	var xs, ys []int64
-	for _, p := range l {
-		xs, ys = append(xs, p.X), append(ys, p.Y)
-	}
-	xs, ys = beside(xs), beside(ys)
+	xs, ys := numbersAt(l)
 	const some = 1300
 	if len(xs)*len(xs)*len(ys)*len(ys) <= some {
 		return boxesOf(xs, ys)
@@ -183,6 +206,31 @@ func BoxesAt(l []api.Point) []api.Box {
 	return boxes
 }
 
+// PlacesAt are points that stand where these do, with coordinates of two of them, beside them, and at the least and the greatest number; their names are 0: of few points all there are, of more some of them.
+func PlacesAt(l []api.Point) []api.Point {
+	xs, ys := numbersAt(l)
+	const some = 130
+	if len(xs)*len(ys) <= some {
+		return placesOf(xs, ys)
+	}
+	places := placesOf([]int64{least, greatest}, []int64{least, greatest})
+	next := Turns(len(l))
+	for range some / 2 {
+		p := l[next(len(l))]
+		places = append(places, Point(0, p.X, p.Y), Point(0, xs[next(len(xs))], ys[next(len(ys))]))
+	}
+	return places
+}
+
+// numbersAt are the numbers of the points, those of X and those of Y, with those beside them.
+func numbersAt(l []api.Point) ([]int64, []int64) {
+	var xs, ys []int64
+	for _, p := range l {
+		xs, ys = append(xs, p.X), append(ys, p.Y)
+	}
+	return beside(xs), beside(ys)
+}
+
 // beside are these numbers, those beside them, and the least and the greatest number; each once, rising.
 func beside(numbers []int64) []int64 {
 	all := []int64{least, greatest}
@@ -191,6 +239,17 @@ func beside(numbers []int64) []int64 {
 	}
 	slices.Sort(all)
 	return slices.Compact(all)
+}
+
+// placesOf are points without a name at all of these numbers.
+func placesOf(xs, ys []int64) []api.Point {
+	var places []api.Point
+	for _, x := range xs {
+		for _, y := range ys {
+			places = append(places, Point(0, x, y))
+		}
+	}
+	return places
 }
 
 // boxesOf are all boxes with sides at these numbers.

@@ -99,6 +99,15 @@ func TestPointsAreRight(t *testing.T) {
 	eachOnce(t, few, lists.RightPoints)
 }
 
+func TestMixedAndManyPointsAreRight(t *testing.T) {
+	eachOnce(t, samples.MixedPoints(), lists.RightPoints)
+	for name, l := range samples.ManyPoints() {
+		if len(l) < 2000 || !lists.RightPoints(l) {
+			t.Errorf("%s: %d points, of which the first are %v", name, len(l), l[:10])
+		}
+	}
+}
+
 // eachOnce fails unless all lists are right, and no two the same.
 func eachOnce[T comparable](t *testing.T, all [][]T, right func(l []T) bool) {
 	t.Helper()
@@ -165,5 +174,23 @@ func TestBoxesAtPoints(t *testing.T) {
 	}
 	if len(many) > 1300 || having < 100 || having == len(many) {
 		t.Errorf("at thirty points: %d boxes, of which %d are right", len(many), having)
+	}
+}
+
+func TestPlacesAtPoints(t *testing.T) {
+	few := samples.PlacesAt([]api.Point{samples.Point(7, 3, 4)})
+	if len(few) != 5*5 || !slices.Contains(few, samples.Point(0, 3, 4)) || !slices.Contains(few, samples.Point(0, 2, 5)) || !slices.Contains(few, samples.Point(0, math.MaxInt64, math.MinInt64)) {
+		t.Errorf("at one point: %v", few)
+	}
+	l := samples.Points(30, 60)
+	many := samples.PlacesAt(l)
+	there := 0
+	for _, place := range many {
+		if slices.ContainsFunc(l, func(p api.Point) bool { return p.X == place.X && p.Y == place.Y }) {
+			there++
+		}
+	}
+	if len(many) > 140 || there < 60 || there > 80 || !slices.Contains(many, samples.Point(0, math.MinInt64, math.MaxInt64)) {
+		t.Errorf("at thirty points: %d places, at %d of which one stands", len(many), there)
 	}
 }
