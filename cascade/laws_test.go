@@ -23,11 +23,8 @@ func TestAllListsOfFewPoints(t *testing.T) {
 }
 
 func TestAllOrdersInWhichFewPointsAreDropped(t *testing.T) {
-	lists := [][]api.Point{samples.Points(5, 1), samples.Points(5, 3), samples.Points(5, 1000)}
-	for _, l := range append(lists, samples.FewPoints(3, 2)...) {
-		for _, order := range samples.Orders(l) {
-			goes(t, of(t, l...), order, 1)
-		}
+	for _, order := range samples.OrdersOfFewPoints() {
+		goes(t, of(t, order...), order, 1)
 	}
 }
 

@@ -20,15 +20,8 @@ func TestAllListsOfFewPoints(t *testing.T) {
 }
 
 func TestAllOrdersInWhichFewPointsAreDropped(t *testing.T) {
-	for _, unlike := range []int{1, 3, 1000} {
-		for _, order := range samples.Orders(samples.Points(5, unlike)) {
-			goes(t, of(t, order...), order, 1)
-		}
-	}
-	for _, l := range samples.FewPoints(3, 2) {
-		for _, order := range samples.Orders(l) {
-			goes(t, of(t, l...), order, 1)
-		}
+	for _, order := range samples.OrdersOfFewPoints() {
+		goes(t, of(t, order...), order, 1)
 	}
 }
 

@@ -63,6 +63,15 @@ func FewPoints(n, side int) [][]api.Point {
 	return few(n, one, func(p *api.Point, name uint32) { p.ID = name })
 }
 
+// OrdersOfFewPoints are all orders of some lists of few points.
+func OrdersOfFewPoints() [][]api.Point {
+	var all [][]api.Point
+	for _, l := range append(FewPoints(3, 2), Points(5, 1), Points(5, 3), Points(5, 1000)) {
+		all = append(all, Orders(l)...)
+	}
+	return all
+}
+
 // HowPointsLie are lists of ten points, by how they lie to one another.
 func HowPointsLie() map[string][]api.Point {
 	two, turned := []int64{least, greatest}, []int64{greatest, least}

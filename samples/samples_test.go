@@ -97,6 +97,11 @@ func TestPointsAreRight(t *testing.T) {
 		t.Errorf("%d lists of two points each of which is at one of nine places", len(few))
 	}
 	eachOnce(t, few, lists.RightPoints)
+	orders := samples.OrdersOfFewPoints()
+	if len(orders) != 64*6+3*120 {
+		t.Errorf("%d orders of few points", len(orders))
+	}
+	eachOnce(t, orders, lists.RightPoints)
 }
 
 func TestMixedAndManyPointsAreRight(t *testing.T) {
